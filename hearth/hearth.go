@@ -1,0 +1,122 @@
+// Package hearth: a small kernel: see DOC.md.
+package hearth
+
+import (
+	"slices"
+	"sync"
+
+	"hearth/api"
+)
+
+// Kernel is processes, and the pipes between them.
+type Kernel struct {
+	config  api.Config
+	program []insn
+	procs   []*process // by their numbers
+	ready   rows
+	now     int // the number of the next tick
+}
+
+// New makes a kernel with one process (P3).
+func New(c api.Config, image []byte) (*Kernel, api.Errno) {
+	if !isConfig(c) {
+		return nil, api.ErrConfig
+	}
+	if !isImage(image) {
+		return nil, api.ErrImage
+	}
+	k := &Kernel{config: c, program: decode(image)}
+	k.add(&process{Proc: api.Proc{ID: 1}})
+	return k, api.OK
+}
+
+// Run lets some ticks pass; what happened (P4 to P8).
+func (k *Kernel) Run(ticks int) ([]api.Event, api.Errno) {
+	if ticks < 0 || ticks > api.MaxTicks {
+		return nil, api.ErrTicks
+	}
+	// The channel has no room of its own: what is sent has been taken, so that
+	// behind the close of done there is no event left to be missed.
+	events := make(chan api.Event)
+	done := make(chan struct{})
+	var worker sync.WaitGroup
+	worker.Add(1)
+	go func() {
+		defer worker.Done()
+		defer close(done)
+		k.pass(ticks, events)
+	}()
+	told := gather(events, done)
+	worker.Wait()
+	return told, api.OK
+}
+
+// Procs tells all processes, by their numbers (P9).
+func (k *Kernel) Procs() []api.Proc {
+	var told []api.Proc
+	for _, p := range k.all() {
+		told = append(told, p.Proc)
+	}
+	return told
+}
+
+// Memory tells a process's memory (P9).
+func (k *Kernel) Memory(id int) ([]byte, api.Errno) {
+	p := k.find(id)
+	if p == nil {
+		return nil, api.ErrProc
+	}
+	return slices.Clone(p.memory[:]), api.OK
+}
+
+func isConfig(c api.Config) bool {
+	for _, s := range c.Slices {
+		if s < 1 || s > api.MaxSlice {
+			return false
+		}
+	}
+	return c.Boost >= 1 && c.Boost <= api.MaxBoost
+}
+
+func isImage(image []byte) bool {
+	n := len(image)
+	return n > 0 && n%insnSize == 0 && n <= insnSize*api.MaxInsns
+}
+
+// gather takes events until there will be none.
+func gather(events <-chan api.Event, done <-chan struct{}) []api.Event {
+	var told []api.Event
+	for {
+		select {
+		case e := <-events:
+			told = append(told, e)
+		case <-done:
+			return told
+		}
+	}
+}
+
+// all: beside an error New gives no kernel; the calls find no process there.
+func (k *Kernel) all() []*process {
+	if k == nil {
+		return nil
+	}
+	return k.procs
+}
+
+// find answers nil if there is no such process.
+func (k *Kernel) find(id int) *process {
+	for _, p := range k.all() {
+		if p.ID == id {
+			return p
+		}
+	}
+	return nil
+}
+
+// add takes a new process in; it is ready.
+func (k *Kernel) add(p *process) {
+	k.procs = append(k.procs, p)
+	p.State = api.Ready
+	k.ready.join(p)
+}
