@@ -2,7 +2,6 @@ package hearth_test
 
 import (
 	"math"
-	"math/rand"
 	"slices"
 	"testing"
 
@@ -146,43 +145,6 @@ func TestNoKernel(t *testing.T) {
 	}
 }
 
-// state is all that can be asked of a kernel.
-func state(t *testing.T, k *hearth.Kernel) ([]api.Proc, []byte) {
-	t.Helper()
-	return k.Procs(), memory(t, k)
-}
-
-// P1, P2: with whatever bytes, at once or in pieces, asked between or not.
-func TestPieces(t *testing.T) {
-	r := rand.New(rand.NewSource(1))
-	for range 400 {
-		c := api.Config{Slices: [3]int{1 + r.Intn(10), 1 + r.Intn(10), 1 + r.Intn(10)}, Boost: 1 + r.Intn(40)}
-		program := make([]byte, 4*(1+r.Intn(40)))
-		r.Read(program)
-		for i := 0; i < len(program); i += 4 {
-			program[i] = byte(r.Intn(11))
-			program[i+3] = byte(r.Intn(2))
-		}
-		whole, pieces := start(t, c, program), start(t, c, program)
-		const ticks = 300
-		want := run(t, whole, ticks)
-		var got []api.Event
-		for left := ticks; left > 0; {
-			n := r.Intn(min(left, 20) + 1)
-			got = append(got, run(t, pieces, n)...)
-			left -= n
-			state(t, pieces)
-			pieces.Memory(2)
-			pieces.Run(-1)
-		}
-		wantProcs, wantMemory := state(t, whole)
-		procs, bytes := state(t, pieces)
-		if !slices.Equal(got, want) || !slices.Equal(procs, wantProcs) || !slices.Equal(bytes, wantMemory) {
-			t.Fatalf("%+v, image %x: in pieces %v, at once %v", c, program, got, want)
-		}
-	}
-}
-
 // P2: what is handed in is neither written into nor kept.
 func TestImageStaysTheCallers(t *testing.T) {
 	room := slices.Repeat([]byte{0xee}, 64)
@@ -209,8 +171,8 @@ func spoil[T any](l []T, with T) {
 func TestAnswersAreTheCallers(t *testing.T) {
 	k := start(t, plain, insn(api.Set, 0, 5), insn(api.Store, 0, 1), insn(api.Jump, 0, 0))
 	kept := run(t, k, 3)
-	keptProcs, keptMemory := state(t, k)
-	procs, bytes := state(t, k)
+	keptProcs, keptMemory := all(t, k)
+	procs, bytes := all(t, k)
 	spoil(run(t, k, 3), api.Event{Tick: -1})
 	spoil(procs, api.Proc{ID: -1})
 	spoil(bytes, 0xee)

@@ -13,6 +13,7 @@ type Kernel struct {
 	config  api.Config
 	program []insn
 	procs   []*process // by their numbers
+	last    int        // the greatest number that a process has got
 	ready   rows
 	now     int // the number of the next tick
 }
@@ -26,7 +27,7 @@ func New(c api.Config, image []byte) (*Kernel, api.Errno) {
 		return nil, api.ErrImage
 	}
 	k := &Kernel{config: c, program: decode(image)}
-	k.add(&process{Proc: api.Proc{ID: 1}})
+	k.add(&process{})
 	return k, api.OK
 }
 
@@ -114,9 +115,23 @@ func (k *Kernel) find(id int) *process {
 	return nil
 }
 
-// add takes a new process in; it is ready.
+// add takes a new process in, with a number of its own; it is ready.
 func (k *Kernel) add(p *process) {
+	k.last++
+	p.ID = k.last
 	k.procs = append(k.procs, p)
+	k.wake(p)
+}
+
+// wake: who becomes ready stands last, with a whole slice.
+func (k *Kernel) wake(p *process) {
 	p.State = api.Ready
+	p.Used = 0
 	k.ready.join(p)
+}
+
+// stop: who is not ready, whatever else it is, stands in no row.
+func (k *Kernel) stop(p *process, state int) {
+	k.ready.leave(p)
+	p.State = state
 }

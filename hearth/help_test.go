@@ -14,7 +14,17 @@ var plain = api.Config{Slices: [3]int{10, 10, 10}, Boost: 1000}
 // insn: an instruction by its operator, a and k.
 func insn(op, a, k int) []byte { return []byte{byte(op), byte(a), byte(k), byte(k >> 8)} }
 
+func set(r, k int) []byte { return insn(api.Set, r, k) }
+
+func jump(k int) []byte { return insn(api.Jump, 0, k) }
+
+// child: where one whose register 0 is 0 goes on, as a child does behind a fork.
+func child(k int) []byte { return insn(api.Jumpz, 0, k) }
+
 func trap(number int) []byte { return insn(api.Trap, number, 0) }
+
+// call: a trap of one argument, which is set ahead: two instructions.
+func call(number, arg int) []byte { return slices.Concat(set(0, arg), trap(number)) }
 
 func image(insns ...[]byte) []byte { return slices.Concat(insns...) }
 
@@ -44,12 +54,58 @@ func tells(t *testing.T, k *hearth.Kernel, ticks int, want ...api.Event) {
 	}
 }
 
-func ran(tick, at int) api.Event { return api.Event{Tick: tick, Kind: api.Ran, Proc: 1, A: at} }
+// What is told of process 1.
+func ran(tick, at int) api.Event      { return event(tick, api.Ran, 1, at) }
+func printed(tick, c int) api.Event   { return event(tick, api.Printed, 1, c) }
+func gone(tick, status int) api.Event { return event(tick, api.Gone, 1, status) }
 
-func printed(tick, c int) api.Event { return api.Event{Tick: tick, Kind: api.Printed, Proc: 1, A: c} }
+func idle(tick int) api.Event { return event(tick, api.Idle, 0, 0) }
 
-func gone(tick, status int) api.Event {
-	return api.Event{Tick: tick, Kind: api.Gone, Proc: 1, A: status}
+func event(tick, kind, id, a int) api.Event {
+	return api.Event{Tick: tick, Kind: kind, Proc: id, A: a}
+}
+
+// step is a run of an instruction, by a process, as seen without its tick.
+type step struct{ id, at int }
+
+// steps runs so many ticks, and tells who ran what; Idle is the step of process 0.
+func steps(t *testing.T, k *hearth.Kernel, ticks int) []step {
+	t.Helper()
+	var l []step
+	for _, e := range run(t, k, ticks) {
+		if e.Kind == api.Ran || e.Kind == api.Idle {
+			l = append(l, step{e.Proc, e.A})
+		}
+	}
+	return l
+}
+
+// goes runs as many ticks as steps are wanted, and holds them against these.
+func goes(t *testing.T, k *hearth.Kernel, want ...step) {
+	t.Helper()
+	if got := steps(t, k, len(want)); !slices.Equal(got, want) {
+		t.Errorf("goes %v, want %v", got, want)
+	}
+}
+
+// shows holds all processes against what is wanted.
+func shows(t *testing.T, k *hearth.Kernel, want ...api.Proc) {
+	t.Helper()
+	if got := k.Procs(); !slices.Equal(got, want) {
+		t.Errorf("Procs\n%+v, want\n%+v", got, want)
+	}
+}
+
+// proc: a process, which must be there.
+func proc(t *testing.T, k *hearth.Kernel, id int) api.Proc {
+	t.Helper()
+	for _, p := range k.Procs() {
+		if p.ID == id {
+			return p
+		}
+	}
+	t.Fatalf("there is no process %d", id)
+	return api.Proc{}
 }
 
 // only: process 1, which must be the only one.
@@ -64,9 +120,14 @@ func only(t *testing.T, k *hearth.Kernel) api.Proc {
 
 func memory(t *testing.T, k *hearth.Kernel) []byte {
 	t.Helper()
-	b, e := k.Memory(1)
+	return memoryOf(t, k, 1)
+}
+
+func memoryOf(t *testing.T, k *hearth.Kernel, id int) []byte {
+	t.Helper()
+	b, e := k.Memory(id)
 	if e != api.OK || len(b) != 64 {
-		t.Fatalf("Memory(1): %d bytes, error %d", len(b), e)
+		t.Fatalf("Memory(%d): %d bytes, error %d", id, len(b), e)
 	}
 	return b
 }

@@ -3,6 +3,7 @@ package hearth
 import (
 	"errors"
 	"slices"
+	"strconv"
 	"strings"
 	"testing"
 
@@ -12,29 +13,24 @@ import (
 // What a trap fails with is an error value with words of its own around the reason.
 func TestRefusal(t *testing.T) {
 	k, _ := New(api.Config{Slices: [3]int{1, 1, 1}, Boost: 1}, make([]byte, 4))
-	err := k.trap(k.find(1), 77, nil)
-	var r *refusal
-	if !errors.As(err, &r) || !errors.Is(err, errBadCall) || r.answer() != api.BadCall {
-		t.Fatalf("trap 77 fails with %v", err)
-	}
-	if !strings.Contains(err.Error(), "77") || !strings.HasSuffix(err.Error(), errBadCall.Error()) {
-		t.Errorf("the words: %q", err)
-	}
-}
-
-// P4: nobody is ready: Idle, of process 0; the ticks are counted on.
-func TestIdle(t *testing.T) {
-	k, _ := New(api.Config{Slices: [3]int{1, 1, 1}, Boost: 2}, []byte{api.Jump, 0, 0, 0})
 	p := k.find(1)
-	k.ready.leave(p)
-	p.State = api.Asleep
-	l, e := k.Run(3)
-	want := []api.Event{{Tick: 0, Kind: 2}, {Tick: 1, Kind: 2}, {Tick: 2, Kind: 2}}
-	if e != api.OK || !slices.Equal(l, want) {
-		t.Errorf("Run(3): %v, error %d, want %v", l, e, want)
-	}
-	if p.Used != 0 || p.At != 0 {
-		t.Errorf("a process that is not ready: %+v", p.Proc)
+	for _, c := range []struct {
+		number int
+		reason error
+		answer uint16
+	}{{77, errBadCall, api.BadCall}, {api.Wait, errNoChild, api.NoChild}, {api.Kill, errNoProc, api.NoProc}, {api.Fork, errFull, api.Full}} {
+		err := k.trap(p, byte(c.number), nil)
+		for err == nil && len(k.procs) <= api.MaxProcs {
+			err = k.trap(p, byte(c.number), nil)
+		}
+		var r *refusal
+		if !errors.As(err, &r) || !errors.Is(err, c.reason) || r.answer() != c.answer {
+			t.Errorf("trap %d fails with %v", c.number, err)
+			continue
+		}
+		if !strings.Contains(err.Error(), strconv.Itoa(c.number)) || !strings.HasSuffix(err.Error(), c.reason.Error()) {
+			t.Errorf("the words: %q", err)
+		}
 	}
 }
 

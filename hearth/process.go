@@ -32,10 +32,11 @@ func decode(image []byte) []insn {
 	return program
 }
 
-// process is what is told of it, and its memory.
+// process is what is told of it, its memory, and the tick at which its sleep is over.
 type process struct {
 	api.Proc
 	memory [api.Memory]byte
+	until  int
 }
 
 // do does an instruction that is no trap. One that faults changes nothing.

@@ -4,7 +4,7 @@ import "slices"
 
 const levels = 3
 
-// rows: those that are ready, by levels. Who runs stands first all the while.
+// rows: those that are ready, by levels. Who runs stands in its row all the while, first if it does not yield.
 type rows [levels][]*process
 
 // first answers nil if all rows are empty.

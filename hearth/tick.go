@@ -24,6 +24,7 @@ func (k *Kernel) over() bool {
 }
 
 func (k *Kernel) tick(events chan<- api.Event) {
+	k.wakeSleepers()
 	if k.now > 0 && k.now%k.config.Boost == 0 {
 		k.raise()
 	}
@@ -37,6 +38,14 @@ func (k *Kernel) tick(events chan<- api.Event) {
 	p.Used++
 	if p.State == api.Ready {
 		k.turn(p)
+	}
+}
+
+func (k *Kernel) wakeSleepers() {
+	for _, p := range k.procs {
+		if p.State == api.Asleep && p.until == k.now {
+			k.wake(p)
+		}
 	}
 }
 
@@ -84,13 +93,6 @@ func (k *Kernel) turn(p *process) {
 	p.Level = min(p.Level+1, levels-1)
 	p.Used = 0
 	k.ready.join(p)
-}
-
-func (k *Kernel) end(p *process, status int, events chan<- api.Event) {
-	k.ready.leave(p)
-	p.State = api.Ended
-	p.Status = status
-	k.tell(events, api.Gone, p.ID, status)
 }
 
 func (k *Kernel) tell(events chan<- api.Event, kind, id, a int) {
