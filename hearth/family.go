@@ -10,7 +10,7 @@ func (k *Kernel) fork(p *process) error {
 	if len(k.procs) >= api.MaxProcs {
 		return errFull
 	}
-	child := &process{Proc: api.Proc{Parent: p.ID, At: p.At, Regs: p.Regs}, memory: p.memory}
+	child := &process{Proc: api.Proc{Parent: p.ID, At: p.At, Regs: p.Regs}, memory: p.memory, files: p.files}
 	child.Regs[0] = 0
 	k.add(child)
 	p.Regs[0] = uint16(child.ID)
@@ -39,9 +39,12 @@ func (k *Kernel) kill(p *process, events chan<- api.Event) error {
 
 // end: the process stays, with its status, until its parent asks for it.
 func (k *Kernel) end(p *process, status int, events chan<- api.Event) {
+	// Register 0 of who waits at a pipe still names the file; of others it names no row that they stand in.
+	k.depart(p, p.file(p.Regs[0]))
 	k.stop(p, api.Ended)
 	p.Status = status
 	k.tell(events, api.Gone, p.ID, status)
+	k.shutAll(p)
 	k.orphan(p)
 	k.lookAtParents()
 }

@@ -15,7 +15,9 @@ type Kernel struct {
 	procs   []*process // by their numbers
 	last    int        // the greatest number that a process has got
 	ready   rows
-	now     int // the number of the next tick
+	bytes   [1 + api.MaxPipes][]byte // what is in each pipe; there is no pipe 0
+	waiting map[pipeEnd][]*process   // the rows at the pipes' ends, in the order of asking
+	now     int                      // the number of the next tick
 }
 
 // New makes a kernel with one process (P3).
@@ -26,7 +28,7 @@ func New(c api.Config, image []byte) (*Kernel, api.Errno) {
 	if !isImage(image) {
 		return nil, api.ErrImage
 	}
-	k := &Kernel{config: c, program: decode(image)}
+	k := &Kernel{config: c, program: decode(image), waiting: map[pipeEnd][]*process{}}
 	k.add(&process{})
 	return k, api.OK
 }
@@ -130,7 +132,7 @@ func (k *Kernel) wake(p *process) {
 	k.ready.join(p)
 }
 
-// stop: who is not ready, whatever else it is, stands in no row.
+// stop: who is not ready, whatever else it is, stands in no level's row.
 func (k *Kernel) stop(p *process, state int) {
 	k.ready.leave(p)
 	p.State = state

@@ -32,10 +32,11 @@ func decode(image []byte) []insn {
 	return program
 }
 
-// process is what is told of it, its memory, and the tick at which its sleep is over.
+// process is what is told of it, its memory, its files, and the tick at which its sleep is over.
 type process struct {
 	api.Proc
 	memory [api.Memory]byte
+	files  [api.MaxFiles]pipeEnd
 	until  int
 }
 

@@ -1,10 +1,6 @@
 package hearth
 
-import (
-	"errors"
-
-	"hearth/api"
-)
+import "hearth/api"
 
 // pass lets so many ticks pass. When all is over nothing hangs on their number any more.
 func (k *Kernel) pass(ticks int, events chan<- api.Event) {
@@ -74,12 +70,7 @@ func (k *Kernel) step(p *process, events chan<- api.Event) error {
 
 // settle: a trap that failed has an answer; whatever else failed is a fault.
 func (k *Kernel) settle(p *process, err error, events chan<- api.Event) {
-	var r *refusal
-	switch {
-	case err == nil:
-	case errors.As(err, &r):
-		p.Regs[0] = r.answer()
-	default:
+	if err != nil && !p.answered(err) {
 		k.end(p, api.Faulted, events)
 	}
 }

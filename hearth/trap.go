@@ -9,10 +9,13 @@ import (
 
 // Why traps fail.
 var (
-	errFull    = errors.New("there is no room for one more")
-	errNoChild = errors.New("there is no child")
-	errNoProc  = errors.New("there is no such process")
-	errBadCall = errors.New("no such call, or not with that")
+	errBadFile  = errors.New("no such file, or not of that kind")
+	errFull     = errors.New("there is no room for one more")
+	errNoChild  = errors.New("there is no child")
+	errNoProc   = errors.New("there is no such process")
+	errNoReader = errors.New("nobody can read that")
+	errBadAddr  = errors.New("memory that there is not")
+	errBadCall  = errors.New("no such call, or not with that")
 )
 
 // refusal is what a trap fails with: which one, and why.
@@ -32,23 +35,44 @@ func (r *refusal) Unwrap() error {
 // answer is what the process finds in register 0.
 func (r *refusal) answer() uint16 {
 	switch {
+	case errors.Is(r, errBadFile):
+		return api.BadFile
 	case errors.Is(r, errFull):
 		return api.Full
 	case errors.Is(r, errNoChild):
 		return api.NoChild
 	case errors.Is(r, errNoProc):
 		return api.NoProc
+	case errors.Is(r, errNoReader):
+		return api.NoReader
+	case errors.Is(r, errBadAddr):
+		return api.BadAddr
 	default:
 		return api.BadCall
 	}
 }
 
+// refuse wraps why a trap failed, if it did.
+func refuse(number int, reason error) error {
+	if reason == nil {
+		return nil
+	}
+	return &refusal{number: number, reason: reason}
+}
+
+// answered gives the process the answer of a trap that failed; false if it was something else that did.
+func (p *process) answered(err error) bool {
+	var r *refusal
+	if !errors.As(err, &r) {
+		return false
+	}
+	p.Regs[0] = r.answer()
+	return true
+}
+
 // trap does what the process asks for. Its next instruction stands behind the trap already.
 func (k *Kernel) trap(p *process, number byte, events chan<- api.Event) error {
-	if err := k.grant(p, number, events); err != nil {
-		return &refusal{number: int(number), reason: err}
-	}
-	return nil
+	return refuse(int(number), k.grant(p, number, events))
 }
 
 func (k *Kernel) grant(p *process, number byte, events chan<- api.Event) error {
@@ -67,6 +91,14 @@ func (k *Kernel) grant(p *process, number byte, events chan<- api.Event) error {
 		k.yield(p)
 	case api.Self:
 		p.Regs[0] = uint16(p.ID)
+	case api.Pipe:
+		return k.pipe(p)
+	case api.Close:
+		return k.close(p)
+	case api.Read:
+		return k.ask(p, api.Reading, api.Memory)
+	case api.Write:
+		return k.ask(p, api.Writing, api.PipeSize)
 	case api.Print:
 		k.tell(events, api.Printed, p.ID, int(byte(p.Regs[0])))
 		p.Regs[0] = 0
